@@ -159,7 +159,7 @@ func PowersText(list []Power) (string, int64) {
 	}
 	texts := make([]string, len(list))
 	for i, power := range list {
-		texts[i] = powerText(power)
+		texts[i] = pairText(power.Prime, "^", power.Exponent)
 	}
 	return strings.Join(texts, "*"), ErrNone
 }
@@ -182,12 +182,13 @@ func arePowers(list []Power) bool {
 	return true
 }
 
-func powerText(power Power) string {
-	text := strconv.FormatInt(power.Prime, 10)
-	if power.Exponent == 1 {
+// pairText returns two numbers with a mark between them, or only the first one if the second is 1.
+func pairText(a int64, mark string, b int64) string {
+	text := strconv.FormatInt(a, 10)
+	if b == 1 {
 		return text
 	}
-	return text + "^" + strconv.FormatInt(power.Exponent, 10)
+	return text + mark + strconv.FormatInt(b, 10)
 }
 
 // ReadPowers returns the list with the PowersText s, and ErrNone. It returns nil and ErrSyntax if
@@ -198,11 +199,11 @@ func ReadPowers(s string) ([]Power, int64) {
 	}
 	var list []Power
 	for part := range strings.SplitSeq(s, "*") {
-		power, ok := readPower(part)
+		prime, exponent, ok := readPair(part, "^")
 		if !ok || len(list) == MaxList {
 			return nil, ErrSyntax
 		}
-		list = append(list, power)
+		list = append(list, Power{prime, exponent})
 	}
 	// The numbers were read leniently (signs, superfluous zeros, an exponent 1 written out), so
 	// only the comparison with the text tells whether s is one.
@@ -213,20 +214,21 @@ func ReadPowers(s string) ([]Power, int64) {
 	return list, ErrNone
 }
 
-func readPower(s string) (Power, bool) {
-	prime, exponent, hasExponent := strings.Cut(s, "^")
-	p, err := strconv.ParseInt(prime, 10, 64)
+// readPair reads what pairText returns, and also numbers that are written in other ways.
+func readPair(s, mark string) (int64, int64, bool) {
+	first, second, isPair := strings.Cut(s, mark)
+	a, err := strconv.ParseInt(first, 10, 64)
 	if err != nil {
-		return Power{}, false
+		return 0, 0, false
 	}
-	if !hasExponent {
-		return Power{p, 1}, true
+	if !isPair {
+		return a, 1, true
 	}
-	e, err := strconv.ParseInt(exponent, 10, 64)
+	b, err := strconv.ParseInt(second, 10, 64)
 	if err != nil {
-		return Power{}, false
+		return 0, 0, false
 	}
-	return Power{p, e}, true
+	return a, b, true
 }
 
 // DivisorsOf returns all positive divisors of n, in 1..1000000, strictly increasing, and ErrNone.
